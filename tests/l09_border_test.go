@@ -751,47 +751,61 @@ func borderCalls() map[string]func(w []int) [][]int {
 	}
 }
 
+// checkChangesNothing checks that a call does not change the memory of its argument, nor depend on what is behind it.
+func checkChangesNothing(t *testing.T, name string, call func(w []int) [][]int, w []int) {
+	t.Helper()
+	word, changed := guardedWord(w)
+	first := fmt.Sprint(call(word))
+	if changed() {
+		t.Errorf("%s changes the memory of %v", name, w)
+	}
+	if again := fmt.Sprint(call(slices.Clip(slices.Clone(w)))); first != again {
+		t.Errorf("%s(%v) = %s and %s", name, w, first, again)
+	}
+}
+
+// checkSharesNothing checks that the lists of a result share memory neither with each other nor with the argument or another result, and returns how many lists there are.
+func checkSharesNothing(t *testing.T, name string, call func(w []int) [][]int, w []int) int {
+	t.Helper()
+	word, changed := guardedWord(w)
+	got, again := call(word), call(word)
+	before := copiedWords(got)
+	for _, list := range again {
+		spoil(list)
+	}
+	if changed() || !slices.EqualFunc(got, before, slices.Equal) {
+		t.Errorf("the result of %s for %v shares memory", name, w)
+	}
+	for i, list := range got {
+		spoil(list)
+		if !slices.EqualFunc(got[i+1:], before[i+1:], slices.Equal) {
+			t.Errorf("the lists of the result of %s for %v share memory", name, w)
+		}
+	}
+	if changed() {
+		t.Errorf("the result of %s for %v shares memory with the word", name, w)
+	}
+	return len(got)
+}
+
+// borderMemoryWords contains, beside those of memoryWords, words that repeat themselves and a long one.
+func borderMemoryWords() [][]int {
+	return append(memoryWords(), letters("010010"), letters("012012"), letters(thueMorse(64)), repeated(-3, 70))
+}
+
 func TestBordersChangeNoArgument(t *testing.T) {
-	words := append(memoryWords(), letters("010010"), letters("012012"), letters(thueMorse(64)), repeated(-3, 70))
 	for name, call := range borderCalls() {
-		for _, w := range words {
-			word, changed := guardedWord(w)
-			first := fmt.Sprint(call(word))
-			if changed() {
-				t.Errorf("%s changes the memory of %v", name, w)
-			}
-			// What is behind the word does not matter, either.
-			if again := fmt.Sprint(call(slices.Clip(slices.Clone(w)))); first != again {
-				t.Errorf("%s(%v) = %s and %s", name, w, first, again)
-			}
+		for _, w := range borderMemoryWords() {
+			checkChangesNothing(t, name, call, w)
 		}
 	}
 }
 
 func TestBordersShareNoMemory(t *testing.T) {
 	made := 0
-	words := append(memoryWords(), letters("010010"), letters("012012"), letters(thueMorse(64)), repeated(-3, 70))
 	for name, call := range borderCalls() {
-		for _, w := range words {
-			word, changed := guardedWord(w)
-			got, again := call(word), call(word)
-			before := copiedWords(got)
-			for _, list := range again {
-				spoil(list)
-			}
-			if changed() || !slices.EqualFunc(got, before, slices.Equal) {
-				t.Errorf("the result of %s for %v shares memory", name, w)
-			}
-			for i, list := range got {
-				spoil(list)
-				if !slices.EqualFunc(got[i+1:], before[i+1:], slices.Equal) {
-					t.Errorf("the lists of the result of %s for %v share memory", name, w)
-				}
-				made++
-			}
-			if changed() {
-				t.Errorf("the result of %s for %v shares memory with the word", name, w)
-			}
+		for _, w := range borderMemoryWords() {
+			made += checkSharesNothing(t, name, call, w)
 		}
 	}
 	if made < 100 {
