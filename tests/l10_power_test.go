@@ -694,18 +694,24 @@ func TestPowersOfKnownWords(t *testing.T) {
 	}
 }
 
+// withOtherLetters puts another number in place of each letter, which keeps different letters different.
+func withOtherLetters(w []int) []int {
+	names := map[int]int{}
+	var renamed []int
+	for _, letter := range w {
+		if _, ok := names[letter]; !ok {
+			names[letter] = math.MaxInt - len(names)<<32
+		}
+		renamed = append(renamed, names[letter])
+	}
+	return renamed
+}
+
 // What the letters are called does not matter, nor in which direction the word is read.
 func TestPowersOfOtherLetters(t *testing.T) {
 	for _, w := range lessThan(powerWords(), 65) {
 		squares := impl.SquaresOf(w)
-		names := map[int]int{}
-		var renamed []int
-		for _, letter := range w {
-			if _, ok := names[letter]; !ok {
-				names[letter] = math.MaxInt - len(names)<<32
-			}
-			renamed = append(renamed, names[letter])
-		}
+		renamed := withOtherLetters(w)
 		if got := impl.SquaresOf(renamed); !slices.Equal(got, squares) {
 			t.Fatalf("SquaresOf(%v) = %v, but SquaresOf(%v) = %v", w, squares, renamed, got)
 		}
